@@ -59,14 +59,20 @@ func randomNames(r *rand.Rand, most int) []string {
 
 // randomBigraph makes a Bigraph over house.
 func randomBigraph(r *rand.Rand) impl.Bigraph {
-	sig := house()
 	b := impl.Bigraph{Roots: r.Intn(5), Edges: r.Intn(9), Outer: randomNames(r, pick(r, []int{2, 16}))}
+	return randomInside(r, b, 8, 4, randomNames(r, pick(r, []int{2, 16})))
+}
+
+// randomInside adds up to so many nodes and sites to a Bigraph over house without any, and inner
+// names if there is a link for them.
+func randomInside(r *rand.Rand, b impl.Bigraph, nodes int, sites int, inner []string) impl.Bigraph {
+	sig := house()
 	links := b.Edges + len(b.Outer)
 	parents := []int{}
 	for root := range b.Roots {
 		parents = append(parents, -1-root)
 	}
-	for k := range r.Intn(9) {
+	for k := range r.Intn(nodes + 1) {
 		c := r.Intn(len(sig))
 		if len(parents) == 0 || links == 0 && sig[c].Ports > 0 {
 			break
@@ -80,12 +86,12 @@ func randomBigraph(r *rand.Rand) impl.Bigraph {
 			parents = append(parents, k)
 		}
 	}
-	for range r.Intn(5) {
+	for range r.Intn(sites + 1) {
 		if len(parents) > 0 {
 			b.Sites = append(b.Sites, pick(r, parents))
 		}
 	}
-	for _, name := range randomNames(r, pick(r, []int{2, 16})) {
+	for _, name := range inner {
 		if links > 0 {
 			b.Inner = append(b.Inner, impl.Wire{Name: name, Link: r.Intn(links)})
 		}
