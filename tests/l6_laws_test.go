@@ -29,6 +29,7 @@ func normalText(t *testing.T, term []impl.TermStep) string {
 }
 
 func TestValuesOfTermsOfBigraphs(t *testing.T) {
+	t.Parallel()
 	count := 0
 	for _, b := range append(lawSamples(), tinyBigraphs()...) {
 		b = withoutInner(b)
@@ -67,6 +68,7 @@ func TestEdgesKeepTheirNumbers(t *testing.T) {
 }
 
 func TestAxiomsKeepValues(t *testing.T) {
+	t.Parallel()
 	counts := map[string]int{}
 	for _, term := range append(validTerms(83, 400, 14), closedTerms(84, 400, 14)...) {
 		value, normal := valueOf(t, term), normalText(t, term)
@@ -92,6 +94,7 @@ func TestAxiomsKeepValues(t *testing.T) {
 }
 
 func TestManyAxiomsOneAfterTheOther(t *testing.T) {
+	t.Parallel()
 	r, made := rand.New(rand.NewSource(85)), 0
 	for _, term := range append(validTerms(86, 60, 20), closedTerms(87, 60, 20)...) {
 		value, now := valueOf(t, term), term
@@ -110,6 +113,7 @@ func TestManyAxiomsOneAfterTheOther(t *testing.T) {
 }
 
 func TestSwapsAreUndoneByThemselves(t *testing.T) {
+	t.Parallel()
 	counts := map[int]int{}
 	for _, term := range append(validTerms(88, 150, 14), closedTerms(89, 900, 14)...) {
 		for at := range term {
@@ -162,6 +166,7 @@ func TestSameNormalTermsExactlyIfIsomorphic(t *testing.T) {
 }
 
 func TestSameTermsExactlyIfIsomorphic(t *testing.T) {
+	t.Parallel()
 	terms, counts := append(validTerms(90, 60, 5), closedTerms(91, 60, 5)...), map[string]int{}
 	for i, term := range terms {
 		for _, other := range terms[:i+1] {

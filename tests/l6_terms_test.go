@@ -121,6 +121,7 @@ func shortTerms() [][]impl.TermStep {
 }
 
 func TestAllShortTerms(t *testing.T) {
+	t.Parallel()
 	counts := map[string]int{}
 	for _, term := range shortTerms() {
 		if checkTerm(t, term) {
@@ -138,6 +139,7 @@ func TestAllShortTerms(t *testing.T) {
 }
 
 func TestRandomTerms(t *testing.T) {
+	t.Parallel()
 	r, counts := rand.New(rand.NewSource(70)), map[string]int{}
 	for range 2000 {
 		term := randomTerm(r, pick(r, [][]int{allKinds, closeKinds}), pick(r, []int{6, 12, 30}))
@@ -482,6 +484,7 @@ func withoutInner(b impl.Bigraph) impl.Bigraph {
 }
 
 func TestTermsOfBigraphs(t *testing.T) {
+	t.Parallel()
 	counts := map[string]int{}
 	for _, b := range slices.Concat(sampleBigraphs(), lightSamples(), tinyBigraphs(), brokenBigraphs(), []impl.Bigraph{twoRooms(), roomsIn(8)}) {
 		with := checkTermOf(t, b)
@@ -684,6 +687,7 @@ func TestAxiomsWithTooManyNames(t *testing.T) {
 }
 
 func TestAxiomsOfRandomTerms(t *testing.T) {
+	t.Parallel()
 	counts := map[string]int{}
 	for _, term := range slices.Concat(validTerms(71, 500, 14), closedTerms(72, 500, 14), validTerms(73, 25, 45)) {
 		checkAxioms(t, term, counts)
@@ -724,6 +728,7 @@ func checkParsed(t *testing.T, text string) bool {
 }
 
 func TestParseChangedTerms(t *testing.T) {
+	t.Parallel()
 	r, counts := rand.New(rand.NewSource(74)), map[string]int{}
 	for _, term := range append(validTerms(75, 150, 8), validTerms(76, 20, 30)...) {
 		text := stepWords(term)
@@ -930,6 +935,7 @@ func TestTermsFailForInvalidArguments(t *testing.T) {
 }
 
 func TestTermsThatAreNotValidFailEverywhere(t *testing.T) {
+	t.Parallel()
 	r := rand.New(rand.NewSource(79))
 	for _, term := range validTerms(80, 300, 12) {
 		for _, other := range changedTerms(r, term) {
@@ -943,6 +949,7 @@ func TestTermsThatAreNotValidFailEverywhere(t *testing.T) {
 }
 
 func TestResultsOfTermsAreNew(t *testing.T) {
+	t.Parallel()
 	r := rand.New(rand.NewSource(81))
 	for _, term := range append(validTerms(82, 400, 12), steps(t, "1 door:x,y /x /y"), steps(t, "@0")) {
 		axiom, at := 1+r.Intn(7), len(term)-1
