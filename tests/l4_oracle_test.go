@@ -90,6 +90,15 @@ func (d drawing) with(words map[string]string) drawing {
 
 // bigraph reads a drawing; it fails if what is drawn is not valid over house.
 func (d drawing) bigraph() (impl.Bigraph, bool) {
+	b := d.numbered()
+	if !isFine(house(), b) {
+		return impl.Bigraph{}, false
+	}
+	return b, true
+}
+
+// numbered tells the words of a drawing by numbers.
+func (d drawing) numbered() impl.Bigraph {
 	b := impl.Bigraph{Roots: len(d.roots), Edges: len(d.edges), Outer: slices.Sorted(slices.Values(d.outer))}
 	places, links := map[string]int{}, map[string]int{}
 	for i, word := range d.roots {
@@ -115,10 +124,7 @@ func (d drawing) bigraph() (impl.Bigraph, bool) {
 	for _, wire := range d.inner {
 		b.Inner = append(b.Inner, impl.Wire{Name: wire.name, Link: numberFor(links, wire.link)})
 	}
-	if !isFine(house(), b) {
-		return impl.Bigraph{}, false
-	}
-	return b, true
+	return b
 }
 
 func numberFor(words map[string]int, word string) int {
@@ -161,6 +167,11 @@ func composedAs(a impl.Bigraph, b impl.Bigraph) (impl.Bigraph, bool) {
 	if !fitsAs(a, b) {
 		return impl.Bigraph{}, false
 	}
+	return drawnAfter(a, b).bigraph()
+}
+
+// drawnAfter draws one Bigraph after another one that fits, whatever the size of the whole.
+func drawnAfter(a impl.Bigraph, b impl.Bigraph) drawing {
 	d, e, words := drawn(a, "a"), drawn(b, "b"), map[string]string{}
 	for _, wire := range d.inner {
 		words[wire.name] = wire.link
@@ -168,7 +179,7 @@ func composedAs(a impl.Bigraph, b impl.Bigraph) (impl.Bigraph, bool) {
 	e = e.with(words)
 	whole := d.around(e)
 	whole.outer, whole.inner = d.outer, e.inner
-	return whole.bigraph()
+	return whole
 }
 
 func parallelAs(a impl.Bigraph, b impl.Bigraph) (impl.Bigraph, bool) {
