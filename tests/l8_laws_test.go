@@ -161,15 +161,9 @@ func TestMatchesOfOtherNumbers(t *testing.T) {
 		own, ownEdges := randomNumbers(r, redex)
 		moved := []impl.Match{}
 		for _, m := range allOf(t, redex, agent) {
-			n := impl.Match{Nodes: make([]int, len(m.Nodes))}
+			n := movedMatch(m, to)
 			for k, image := range m.Nodes {
 				n.Nodes[own[k]] = to[image]
-			}
-			for _, place := range m.Roots {
-				if place >= 0 {
-					place = to[place]
-				}
-				n.Roots = append(n.Roots, place)
 			}
 			moved = append(moved, n)
 		}
@@ -186,26 +180,14 @@ func TestMatchesInPartsAreMatchesOfWholes(t *testing.T) {
 	r, counts := rand.New(rand.NewSource(155)), map[string]int{}
 	for _, agent := range agentSamples(156, 3000, 5) {
 		redex, m := redexIn(r, agent, 4)
-		context, _ := frameFor(r, impl.Bigraph{Roots: agent.Roots, Outer: agent.Outer}, 3)
-		context.Inner = slices.DeleteFunc(context.Inner, func(w impl.Wire) bool { return !slices.Contains(agent.Outer, w.Name) })
+		context := contextFor(r, agent)
 		whole, ok := composition(context, agent)
 		if !ok {
 			continue
 		}
 		shifted := shiftedMatch(m, len(context.Nodes), func(root int) int { return context.Sites[root] })
 		wantMatchOfWhole(t, redex, agent, m, whole, shifted, counts)
-		// Above an active place, a Match is active exactly if it is in its part.
-		open := true
-		for _, place := range shifted.Roots {
-			for k, node := range context.Nodes {
-				above := place == k || place >= 0 && isUnder(whole, place, k)
-				open = open && (!above || house()[node.Control].Kind != impl.KindPassive)
-			}
-		}
-		active := isActiveMatch(t, redex, agent, m)
-		if is := isActiveMatch(t, redex, whole, shifted); is != (open && active) {
-			t.Fatalf("%v of %v in %v is active: %v; in its part: %v", shifted, redex, whole, is, active)
-		}
+		open, active := wantActiveInWhole(t, redex, agent, m, context, whole, shifted)
 		counts[fmt.Sprint(open, " ", active)]++
 		for _, other := range agentSamples(r.Int63(), 1, 3) {
 			if beside, ok := parallel(other, agent); ok {
@@ -216,6 +198,31 @@ func TestMatchesInPartsAreMatchesOfWholes(t *testing.T) {
 	}
 	wantAtLeast(t, counts, 20, "true true", "true false", "false true", "false false")
 	wantAtLeast(t, counts, 500, "wholes")
+}
+
+// contextFor makes a context that fits an agent.
+func contextFor(r *rand.Rand, agent impl.Bigraph) impl.Bigraph {
+	context, _ := frameFor(r, impl.Bigraph{Roots: agent.Roots, Outer: agent.Outer}, 3)
+	context.Inner = slices.DeleteFunc(context.Inner, func(w impl.Wire) bool { return !slices.Contains(agent.Outer, w.Name) })
+	return context
+}
+
+// wantActiveInWhole checks that, where the context has no passive node above the place of a root,
+// a Match is active in the whole exactly if it is in its part, and nowhere else. It reports whether
+// there is no such node, and whether the Match is active in its part.
+func wantActiveInWhole(t *testing.T, redex impl.Bigraph, part impl.Bigraph, m impl.Match, context impl.Bigraph, whole impl.Bigraph, shifted impl.Match) (open bool, active bool) {
+	t.Helper()
+	open, active = true, isActiveMatch(t, redex, part, m)
+	for _, place := range shifted.Roots {
+		for k, node := range context.Nodes {
+			above := place == k || place >= 0 && isUnder(whole, place, k)
+			open = open && (!above || house()[node.Control].Kind != impl.KindPassive)
+		}
+	}
+	if is := isActiveMatch(t, redex, whole, shifted); is != (open && active) {
+		t.Fatalf("%v of %v in %v is active: %v; in its part: %v", shifted, redex, whole, is, active)
+	}
+	return open, active
 }
 
 // shiftedMatch is a Match where so many nodes come before those of its agent, and places are in
@@ -270,15 +277,7 @@ func TestSymmetriesMoveMatches(t *testing.T) {
 			}
 		}
 		for _, symmetry := range others {
-			n := cloneOfMatch(m)
-			for k, image := range m.Nodes {
-				n.Nodes[k] = symmetry[image]
-			}
-			for i, place := range m.Roots {
-				if place >= 0 {
-					n.Roots[i] = symmetry[place]
-				}
-			}
+			n := movedMatch(m, symmetry)
 			if !isMatch(t, redex, agent, n) {
 				t.Fatalf("%v, which is %v of %v in %v moved by a symmetry, is no Match", n, m, redex, agent)
 			}

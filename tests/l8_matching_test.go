@@ -214,10 +214,14 @@ func tellMatches(redex impl.Bigraph, agent impl.Bigraph, all []impl.Match, count
 		rest, _, parameter := partsOf(agent, m)
 		seen["a rest and a parameter"] = len(rest) > 0 && len(parameter) > 0
 		seen["several sites"] = len(redex.Sites) > 1
-		for name, is := range seen {
-			if is {
-				counts[name]++
-			}
+		countSeen(seen, counts)
+	}
+}
+
+func countSeen(seen map[string]bool, counts map[string]int) {
+	for name, is := range seen {
+		if is {
+			counts[name]++
 		}
 	}
 }

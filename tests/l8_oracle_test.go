@@ -508,6 +508,20 @@ func frameFor(r *rand.Rand, redex impl.Bigraph, most int) (context impl.Bigraph,
 	return context, randomInside(r, parameter, most, 0, nil)
 }
 
+// movedMatch is a Match where the nodes of the agent have other numbers.
+func movedMatch(m impl.Match, to []int) impl.Match {
+	moved := cloneOfMatch(m)
+	for k, image := range m.Nodes {
+		moved.Nodes[k] = to[image]
+	}
+	for i, place := range m.Roots {
+		if place >= 0 {
+			moved.Roots[i] = to[place]
+		}
+	}
+	return moved
+}
+
 // matchIn is the Match of a redex in an agent that it is recomposed to with a context.
 func matchIn(redex impl.Bigraph, context impl.Bigraph) impl.Match {
 	return impl.Match{Nodes: numbersFrom(len(context.Nodes), len(redex.Nodes)), Roots: context.Sites}
