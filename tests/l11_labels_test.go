@@ -713,10 +713,10 @@ func TestTellApartExamples(t *testing.T) {
 	}
 }
 
-// wideApart has the states 0 and 1, whose formula has just so many numbers as ands, ors and targets
-// tell: the state 0 leads to 2, and 1 to some targets; 2 leads to 3, which shows the mark 7, and the
-// targets lead to states that show another mark as well, or none. If both is true, then 0 leads to
-// all targets, too.
+// wideApart has the states 0 and 1, which are told apart by a formula as long as the numbers say: the
+// state 0 leads to 2, and 1 to some targets; 2 leads to 3, which shows the mark 7, and the targets
+// lead, by so many Steps in all, to states that show another mark as well (more), and to one that
+// shows none. If both is true, then 0 leads to all targets, too.
 func wideApart(targets int, more int, none int, both bool) impl.Labelled {
 	l := labels("- - - 7")
 	first := len(l.Shows) + targets
